@@ -2,21 +2,87 @@
 package logic
 
 import (
+	"strings"
+
 	"equate/api"
 	"equate/term"
 )
 
-// Parse reads a formula (F1).
-func Parse(b *term.Bank, s string) (api.Form, api.Errno, int) { return api.Form{}, api.OK, 0 }
-
 // Show writes a formula (F2).
-func Show(b *term.Bank, f api.Form) string { return "" }
+func Show(b *term.Bank, f api.Form) string {
+	var out strings.Builder
+	equals := "="
+	for form, done := range steps(&f) {
+		switch {
+		case form.Op == api.Equal:
+			out.WriteString(b.Show(form.Pair.A) + equals + b.Show(form.Pair.B))
+			equals = "="
+		case isUnequal(form) && done == 0:
+			equals = "!="
+		default:
+			out.WriteString(signAt(form, done))
+		}
+	}
+	return out.String()
+}
+
+func isUnequal(f *api.Form) bool {
+	return f.Op == api.Not && len(f.Kids) == 1 && f.Kids[0].Op == api.Equal
+}
+
+// signAt is what stands behind so many kids of a form that is no equality.
+func signAt(f *api.Form, done int) string {
+	switch {
+	case f.Op == api.Not && done == 0:
+		return "!"
+	case f.Op == api.Not:
+		return ""
+	case done == 0:
+		return "("
+	case done == len(f.Kids):
+		return ")"
+	case f.Op == api.And:
+		return "&"
+	case f.Op == api.Or:
+		return "|"
+	case f.Op == api.Implies:
+		return "->"
+	}
+	return "?"
+}
 
 // Eval tells whether a formula is true (F3).
-func Eval(f api.Form, classes []int) bool { return false }
+func Eval(f api.Form, classes []int) bool {
+	bound := uint(len(classes))
+	same := func(p api.Pair) bool { // a number below 0 is far beyond the bound, as an unsigned one
+		return uint(p.A) < bound && uint(p.B) < bound && classes[p.A] == classes[p.B]
+	}
+	return fold(&f, func(form *api.Form, kids []bool) bool {
+		switch {
+		case form.Op == api.Equal:
+			return same(form.Pair)
+		case form.Op == api.Not && len(kids) == 1:
+			return !kids[0]
+		case form.Op == api.And && len(kids) == 2:
+			return kids[0] && kids[1]
+		case form.Op == api.Or && len(kids) == 2:
+			return kids[0] || kids[1]
+		case form.Op == api.Implies && len(kids) == 2:
+			return !kids[0] || kids[1]
+		}
+		return false
+	})
+}
 
 // Atoms tells a formula's equalities (F3).
-func Atoms(f api.Form) []api.Pair { return nil }
-
-// Clauses makes clauses of a formula (F4).
-func Clauses(f api.Form) ([][]int, int) { return nil, 0 }
+func Atoms(f api.Form) []api.Pair {
+	var atoms []api.Pair
+	counts := map[api.Pair]int{}
+	for p := range equalities(&f) {
+		counts[p]++
+		if counts[p] == 1 {
+			atoms = append(atoms, p)
+		}
+	}
+	return atoms
+}
