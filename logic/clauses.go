@@ -21,21 +21,27 @@ func Clauses(f api.Form) ([][]int, int) {
 
 // literal answers a literal that is true just if the form is; kids are those of its kids.
 func (m *maker) literal(form *api.Form, kids []int) int {
-	switch {
-	case form.Op == api.Equal:
-		return m.atoms[form.Pair]
-	case form.Op == api.Not && len(kids) == 1:
+	if !isWhole(form) {
+		return m.never()
+	}
+	switch form.Op {
+	case api.Not:
 		return -kids[0]
-	case form.Op == api.And && len(kids) == 2:
+	case api.And:
 		return m.both(kids[0], kids[1])
-	case form.Op == api.Or && len(kids) == 2:
+	case api.Or:
 		return -m.both(-kids[0], -kids[1])
-	case form.Op == api.Implies && len(kids) == 2:
+	case api.Implies:
 		return -m.both(kids[0], -kids[1])
 	}
-	never := m.variable() // no formula of a bank: false, as Eval has it
-	m.say(-never)
-	return never
+	return m.atoms[form.Pair]
+}
+
+// never answers a variable that is false, as Eval has it of a form that is not whole.
+func (m *maker) never() int {
+	x := m.variable()
+	m.say(-x)
+	return x
 }
 
 // both answers a variable that is true just if both literals are.

@@ -131,6 +131,76 @@ func TestF3EvalMany(t *testing.T) {
 	}
 }
 
+// strangeForm is some Form with Ops and numbers of Kids of all kinds, so that Equals have Kids, too.
+func strangeForm(r *rand.Rand, depth int) api.Form {
+	f := api.Form{Op: r.Intn(7) - 1, Pair: api.Pair{A: r.Intn(5) - 1, B: r.Intn(5) - 1}}
+	told := map[int]int{api.Not: 1, api.And: 2, api.Or: 2, api.Implies: 2}[f.Op]
+	if r.Intn(6) == 0 {
+		told = r.Intn(4)
+	}
+	for range told {
+		if depth == 0 {
+			f.Kids = append(f.Kids, eq(0, 0))
+		} else {
+			f.Kids = append(f.Kids, strangeForm(r, depth-1))
+		}
+	}
+	return f
+}
+
+// strangeTrue is F3's rule of any Form, as it is said.
+func strangeTrue(f api.Form, classes []int) bool {
+	var kids []bool
+	for _, kid := range f.Kids {
+		kids = append(kids, strangeTrue(kid, classes))
+	}
+	inside := func(n int) bool { return n >= 0 && n < len(classes) }
+	switch [2]int{f.Op, len(kids)} {
+	case [2]int{api.Equal, 0}:
+		return inside(f.Pair.A) && inside(f.Pair.B) && classes[f.Pair.A] == classes[f.Pair.B]
+	case [2]int{api.Not, 1}:
+		return !kids[0]
+	case [2]int{api.And, 2}:
+		return kids[0] && kids[1]
+	case [2]int{api.Or, 2}:
+		return kids[0] || kids[1]
+	case [2]int{api.Implies, 2}:
+		return !kids[0] || kids[1]
+	}
+	return false
+}
+
+// TestF3EvalManyStrange also asks the clauses, which are not promised of such Forms, whether they say what Eval says.
+func TestF3EvalManyStrange(t *testing.T) {
+	r := rand.New(rand.NewSource(5))
+	classes := []int{0, 0, 2}
+	trues := 0
+	for range 5000 {
+		f := strangeForm(r, 4)
+		want := strangeTrue(f, classes)
+		if logic.Eval(f, classes) != want {
+			t.Fatalf("F3: Eval(%v) = %t", f, !want)
+		}
+		clauses, n := logic.Clauses(f)
+		for i, p := range logic.Atoms(f) {
+			value := i + 1
+			if !strangeTrue(eq(p.A, p.B), classes) {
+				value = -value
+			}
+			clauses = append(clauses, []int{value})
+		}
+		if _, ok, errno := sat.Solve(n, clauses); ok != want || errno != api.OK {
+			t.Fatalf("F4: the clauses of %v: %t, %d", f, ok, errno)
+		}
+		if want {
+			trues++
+		}
+	}
+	if trues < 500 || trues > 4500 {
+		t.Errorf("%d of 5000 are true", trues)
+	}
+}
+
 func TestF4AnswersAreNewMemory(t *testing.T) {
 	f := op(api.And, op(api.Or, eq(0, 1), eq(1, 2)), ne(0, 2))
 	want, _ := logic.Clauses(f)

@@ -58,19 +58,20 @@ func Eval(f api.Form, classes []int) bool {
 		return uint(p.A) < bound && uint(p.B) < bound && classes[p.A] == classes[p.B]
 	}
 	return fold(&f, func(form *api.Form, kids []bool) bool {
-		switch {
-		case form.Op == api.Equal:
-			return same(form.Pair)
-		case form.Op == api.Not && len(kids) == 1:
+		if !isWhole(form) {
+			return false
+		}
+		switch form.Op {
+		case api.Not:
 			return !kids[0]
-		case form.Op == api.And && len(kids) == 2:
+		case api.And:
 			return kids[0] && kids[1]
-		case form.Op == api.Or && len(kids) == 2:
+		case api.Or:
 			return kids[0] || kids[1]
-		case form.Op == api.Implies && len(kids) == 2:
+		case api.Implies:
 			return !kids[0] || kids[1]
 		}
-		return false
+		return same(form.Pair)
 	})
 }
 

@@ -411,6 +411,7 @@ func TestF3EvalStrange(t *testing.T) {
 		op(api.Not), op(api.Not, op(api.Not, yes), op(api.Not, yes)), op(api.And), op(api.And, yes), op(api.And, yes, yes, yes),
 		op(api.Or), op(api.Or, yes), op(api.Or, yes, yes, yes), op(api.Implies), op(api.Implies, yes), op(api.Implies, yes, yes, yes),
 		op(5, yes, yes), op(-1, yes), {Op: 5}, {Op: math.MaxInt, Kids: []api.Form{yes}},
+		op(api.Equal, yes), op(api.Equal, op(5)), op(api.Equal, yes, yes), op(api.Equal, op(api.Equal, yes)), op(api.Equal, op(api.Not, yes)),
 	} {
 		if logic.Eval(f, []int{0}) {
 			t.Errorf("F3: %v is true", f)
@@ -422,8 +423,8 @@ func TestF3EvalStrange(t *testing.T) {
 	if !logic.Eval(api.Form{Op: api.Not, Pair: api.Pair{A: 5, B: -5}, Kids: []api.Form{eq(0, 1)}}, []int{0, 1}) {
 		t.Error("F3: the Pair of a Not counts")
 	}
-	if !logic.Eval(op(api.Equal, op(5)), []int{0}) || logic.Eval(api.Form{Pair: api.Pair{A: 0, B: 1}, Kids: []api.Form{yes}}, []int{0, 1}) {
-		t.Error("F3: the Kids of an Equal count")
+	if !logic.Eval(api.Form{Kids: []api.Form{}}, []int{0}) {
+		t.Error("F3: an empty list of Kids counts")
 	}
 }
 

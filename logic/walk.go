@@ -12,7 +12,21 @@ type step struct {
 	done int
 }
 
-// kids are the forms that f is made of. Those of an Equal mean nothing.
+// isWhole tells whether a form has one of the Ops, and as many Kids as are told of it. It counts those of an Equal too,
+// which the walk leaves out.
+func isWhole(f *api.Form) bool {
+	switch f.Op {
+	case api.Equal:
+		return len(f.Kids) == 0
+	case api.Not:
+		return len(f.Kids) == 1
+	case api.And, api.Or, api.Implies:
+		return len(f.Kids) == 2
+	}
+	return false
+}
+
+// kids are the forms that are gone through within f. Those of an Equal are not, since they are no atoms (F3).
 func kids(f *api.Form) []api.Form {
 	if f.Op == api.Equal {
 		return nil
